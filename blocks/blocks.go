@@ -1,0 +1,150 @@
+// Package blocks: a set of samples with a range, and its file.
+package blocks
+
+import (
+	"iter"
+	"math"
+	"strings"
+
+	"silo/api"
+	"silo/codes"
+	"silo/sets"
+)
+
+// The file begins with mark; end stands where a further series would.
+const (
+	mark = "B"
+	end  = 0
+)
+
+// leastBytes is how many bytes a sample has at least: a time's, a value's.
+const leastBytes = 2
+
+// IsRange tells whether a block may have the range from lo to hi.
+func IsRange(lo int, hi int) bool {
+	return 0 <= lo && lo <= hi && hi <= api.MaxNumber
+}
+
+// Encode is the file of the block with this range and set.
+func Encode(lo int, hi int, set *sets.Set) string {
+	file := []byte(mark)
+	file = codes.Append(file, uint64(lo))
+	file = codes.Append(file, uint64(hi))
+	for series := range api.MaxSeries {
+		if set.Count(series) > 0 {
+			file = appendSeries(file, series, set)
+		}
+	}
+	return codes.Sealed(string(append(file, end)))
+}
+
+func appendSeries(file []byte, series int, set *sets.Set) []byte {
+	file = codes.Append(file, uint64(series)+1)
+	file = codes.Append(file, uint64(set.Count(series)))
+	first := true
+	var ahead api.Point
+	for point := range set.Points(series) {
+		file = codes.Append(file, timeCode(point.Time, ahead.Time, first))
+		file = codes.Append(file, point.Value^ahead.Value)
+		ahead, first = point, false
+	}
+	return file
+}
+
+func timeCode(time int, ahead int, first bool) uint64 {
+	if first {
+		return codes.FromSigned(time)
+	}
+	return uint64(time) - uint64(ahead)
+}
+
+// Decode reads a file: its range and its samples, by rising series, then
+// times; false, unless the bytes are just the file of a block.
+func Decode(file string) (lo int, hi int, samples []api.Sample, ok bool) {
+	data, sealed := codes.Unsealed(file)
+	body, marked := strings.CutPrefix(data, mark)
+	if !sealed || !marked {
+		return 0, 0, nil, false
+	}
+	r := codes.NewReader(body)
+	lo = readNumber(r)
+	hi = readNumber(r)
+	if !IsRange(lo, hi) {
+		return 0, 0, nil, false
+	}
+	for sample := range readSamples(r) {
+		samples = append(samples, sample)
+	}
+	if !r.Done() {
+		return 0, 0, nil, false
+	}
+	return lo, hi, samples, true
+}
+
+// readNumber fails above MaxNumber ahead of making an int of the code, which
+// could turn out to be small or below 0.
+func readNumber(r *codes.Reader) int {
+	n := r.Code()
+	if n > api.MaxNumber {
+		r.Fail()
+		return 0
+	}
+	return int(n)
+}
+
+// readSamples goes through the samples up to the end mark, or up to what is
+// wrong: the reader tells which.
+func readSamples(r *codes.Reader) iter.Seq[api.Sample] {
+	return func(yield func(api.Sample) bool) {
+		ahead := uint64(end)
+		for {
+			code := r.Code()
+			if code == end {
+				return
+			}
+			if code <= ahead || code > api.MaxSeries {
+				r.Fail()
+				return
+			}
+			ahead = code
+			for point := range readPoints(r) {
+				if !yield(api.Sample{Series: int(code) - 1, Time: point.Time, Value: point.Value}) {
+					return
+				}
+			}
+		}
+	}
+}
+
+// readPoints goes through the points of one series.
+func readPoints(r *codes.Reader) iter.Seq[api.Point] {
+	return func(yield func(api.Point) bool) {
+		count := r.Code()
+		if count == 0 || count > uint64(r.Left()/leastBytes) {
+			r.Fail()
+			return
+		}
+		var point api.Point
+		for i := range count {
+			point.Time = readTime(r, point.Time, i == 0)
+			point.Value ^= r.Code()
+			if r.Failed() || !yield(point) {
+				return
+			}
+		}
+	}
+}
+
+func readTime(r *codes.Reader, ahead int, first bool) int {
+	code := r.Code()
+	if first {
+		return codes.ToSigned(code)
+	}
+	// The room is a uint64, as from the least int on it does not fit an int.
+	room := uint64(math.MaxInt) - uint64(ahead)
+	if code == 0 || code > room {
+		r.Fail()
+		return 0
+	}
+	return ahead + int(code)
+}

@@ -1,0 +1,55 @@
+package blocks
+
+import (
+	"math"
+	"slices"
+	"testing"
+
+	"silo/api"
+	"silo/codes"
+	"silo/sets"
+)
+
+func TestIsRange(t *testing.T) {
+	for _, c := range []struct {
+		lo, hi int
+		want   bool
+	}{
+		{0, 0, true}, {0, 999999, true}, {999999, 999999, true}, {3, 4, true},
+		{-1, 0, false}, {-2, -1, false}, {1, 0, false}, {0, 1000000, false}, {1000000, 1000000, false}, {math.MinInt, math.MaxInt, false}, {math.MaxInt, math.MinInt, false},
+	} {
+		if got := IsRange(c.lo, c.hi); got != c.want {
+			t.Errorf("IsRange(%d, %d) = %t", c.lo, c.hi, got)
+		}
+	}
+}
+
+func TestEncodeThenDecode(t *testing.T) {
+	list := []api.Sample{{Series: 0, Time: math.MinInt, Value: math.MaxUint64}, {Series: 0, Time: math.MaxInt, Value: 0}, {Series: 15, Time: 0, Value: 1}}
+	var set sets.Set
+	set.Lay(list)
+	lo, hi, got, ok := Decode(Encode(7, 8, &set))
+	if lo != 7 || hi != 8 || !slices.Equal(got, list) || !ok {
+		t.Errorf("Decode: %d, %d, %v, %t", lo, hi, got, ok)
+	}
+}
+
+func TestReadSamplesStopsWhenTold(t *testing.T) {
+	r := codes.NewReader("\x01\x02\x02\x03\x01\x04\x02\x01\x02\x03\x00")
+	seen := 0
+	for range readSamples(r) {
+		seen++
+		break
+	}
+	if seen != 1 || r.Left() != 7 || r.Failed() {
+		t.Errorf("%d samples behind the stop, %d bytes left, failed %t", seen, r.Left(), r.Failed())
+	}
+}
+
+func TestReadSamplesStopsAtWhatIsWrong(t *testing.T) {
+	r := codes.NewReader("\x01\x02\x02\x03\x00\x04\x02\x01\x02\x03\x00")
+	got := slices.Collect(readSamples(r))
+	if !slices.Equal(got, []api.Sample{{Series: 0, Time: 1, Value: 3}}) || !r.Failed() {
+		t.Errorf("%v ahead of a time that stands, failed %t", got, r.Failed())
+	}
+}
