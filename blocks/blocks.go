@@ -4,6 +4,7 @@ package blocks
 import (
 	"iter"
 	"math"
+	"strconv"
 	"strings"
 
 	"silo/api"
@@ -25,25 +26,30 @@ func IsRange(lo int, hi int) bool {
 	return 0 <= lo && lo <= hi && hi <= api.MaxNumber
 }
 
+// Name is the name of the block with this range.
+func Name(lo int, hi int) string {
+	return "b" + strconv.Itoa(lo) + "." + strconv.Itoa(hi)
+}
+
 // Encode is the file of the block with this range and set.
 func Encode(lo int, hi int, set *sets.Set) string {
 	file := []byte(mark)
 	file = codes.Append(file, uint64(lo))
 	file = codes.Append(file, uint64(hi))
 	for series := range api.MaxSeries {
-		if set.Count(series) > 0 {
-			file = appendSeries(file, series, set)
+		if line := set.Line(series); line.Count() > 0 {
+			file = appendSeries(file, series, line)
 		}
 	}
 	return codes.Sealed(string(append(file, end)))
 }
 
-func appendSeries(file []byte, series int, set *sets.Set) []byte {
+func appendSeries(file []byte, series int, line *sets.Line) []byte {
 	file = codes.Append(file, uint64(series)+1)
-	file = codes.Append(file, uint64(set.Count(series)))
+	file = codes.Append(file, uint64(line.Count()))
 	first := true
 	var ahead api.Point
-	for point := range set.Points(series) {
+	for point := range line.Points() {
 		file = codes.Append(file, timeCode(point.Time, ahead.Time, first))
 		file = codes.Append(file, point.Value^ahead.Value)
 		ahead, first = point, false
@@ -79,6 +85,28 @@ func Decode(file string) (lo int, hi int, samples []api.Sample, ok bool) {
 		return 0, 0, nil, false
 	}
 	return lo, hi, samples, true
+}
+
+// Between goes through the points of a series from a time to a time, both
+// included, in what must be the file of a block: it was looked at when it was
+// written or opened, so its hash is not asked again.
+func Between(file string, series int, from int, to int) iter.Seq[api.Point] {
+	return func(yield func(api.Point) bool) {
+		r := codes.NewReader(strings.TrimPrefix(file, mark))
+		readNumber(r)
+		readNumber(r)
+		for sample := range readSamples(r) {
+			if sample.Series < series || sample.Series == series && sample.Time < from {
+				continue
+			}
+			if sample.Series > series || sample.Time > to {
+				return
+			}
+			if !yield(api.Point{Time: sample.Time, Value: sample.Value}) {
+				return
+			}
+		}
+	}
 }
 
 // readNumber fails above MaxNumber ahead of making an int of the code, which

@@ -2,23 +2,25 @@
 package sets
 
 import (
-	"cmp"
 	"iter"
-	"slices"
 
 	"silo/api"
 )
 
 // Set is a set of samples. Its zero value is the empty one.
 type Set struct {
-	// For each series in rising order of times, no time twice.
-	points [api.MaxSeries][]api.Point
+	lines [api.MaxSeries]Line
+}
+
+// IsSeries tells whether there may be a series of this number.
+func IsSeries(series int) bool {
+	return 0 <= series && series < api.MaxSeries
 }
 
 // Fits tells whether every sample has a series that may be.
 func Fits(samples []api.Sample) bool {
 	for _, sample := range samples {
-		if sample.Series < 0 || sample.Series >= api.MaxSeries {
+		if !IsSeries(sample.Series) {
 			return false
 		}
 	}
@@ -26,37 +28,26 @@ func Fits(samples []api.Sample) bool {
 }
 
 // Lay lays samples on the set, in their order. They must fit.
-func (s *Set) Lay(samples []api.Sample) {
-	for _, sample := range samples {
+func (s *Set) Lay(samples iter.Seq[api.Sample]) {
+	var fresh [api.MaxSeries][]api.Point
+	for sample := range samples {
 		point := api.Point{Time: sample.Time, Value: sample.Value}
-		s.points[sample.Series] = append(s.points[sample.Series], point)
+		fresh[sample.Series] = append(fresh[sample.Series], point)
 	}
-	for series, points := range s.points {
-		s.points[series] = settled(points)
+	for series, points := range fresh {
+		s.lines[series].lay(settled(points))
 	}
 }
 
-// settled puts points in rising order of times and keeps, of those at one
-// time, the one that was laid last. It works in the memory of what it is given.
-func settled(points []api.Point) []api.Point {
-	// Stable, as the order among those at one time says which was laid last.
-	slices.SortStableFunc(points, byTime)
-	kept := points[:0]
-	for i, point := range points {
-		if i+1 < len(points) && points[i+1].Time == point.Time {
-			continue
+// Empty tells whether the set has no sample.
+func (s *Set) Empty() bool {
+	for series := range s.lines {
+		if s.lines[series].Count() > 0 {
+			return false
 		}
-		kept = append(kept, point)
 	}
-	return kept
+	return true
 }
 
-func byTime(a, b api.Point) int { return cmp.Compare(a.Time, b.Time) }
-
-// Count is how many samples a series has.
-func (s *Set) Count(series int) int { return len(s.points[series]) }
-
-// Points goes through a series, by rising times.
-func (s *Set) Points(series int) iter.Seq[api.Point] {
-	return slices.Values(s.points[series])
-}
+// Line is what the set has of a series.
+func (s *Set) Line(series int) *Line { return &s.lines[series] }

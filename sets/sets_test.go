@@ -8,28 +8,44 @@ import (
 	"silo/api"
 )
 
+func lay(s *Set, list ...api.Sample) { s.Lay(slices.Values(list)) }
+
 func wantPoints(t *testing.T, s *Set, series int, want ...api.Point) {
 	t.Helper()
-	got := slices.Collect(s.Points(series))
-	if !slices.Equal(got, want) || s.Count(series) != len(want) {
-		t.Errorf("series %d has %d: %v, want %v", series, s.Count(series), got, want)
+	line := s.Line(series)
+	got := slices.Collect(line.Points())
+	if !slices.Equal(got, want) || line.Count() != len(want) {
+		t.Errorf("series %d has %d: %v, want %v", series, line.Count(), got, want)
 	}
 }
 
 func TestEmptySet(t *testing.T) {
 	var s Set
-	s.Lay(nil)
+	lay(&s)
 	for series := range api.MaxSeries {
 		wantPoints(t, &s, series)
+	}
+	if !s.Empty() {
+		t.Error("the empty set is not empty")
+	}
+}
+
+func TestASampleOfAnySeriesIsSomething(t *testing.T) {
+	for series := range api.MaxSeries {
+		var s Set
+		lay(&s, api.Sample{Series: series})
+		if s.Empty() {
+			t.Errorf("a set with a sample of series %d is empty", series)
+		}
 	}
 }
 
 func TestLayPutsInTheLastOfATime(t *testing.T) {
 	var s Set
-	s.Lay([]api.Sample{{Series: 2, Time: 5, Value: 7}, {Series: 2, Time: 4, Value: 9}, {Series: 2, Time: 5, Value: 6}, {Series: 3, Time: 5, Value: 1}})
+	s.Lay(slices.Values([]api.Sample{{Series: 2, Time: 5, Value: 7}, {Series: 2, Time: 4, Value: 9}, {Series: 2, Time: 5, Value: 6}, {Series: 3, Time: 5, Value: 1}}))
 	wantPoints(t, &s, 2, api.Point{Time: 4, Value: 9}, api.Point{Time: 5, Value: 6})
 	wantPoints(t, &s, 3, api.Point{Time: 5, Value: 1})
-	s.Lay([]api.Sample{{Series: 2, Time: 4, Value: 0}, {Series: 2, Time: math.MinInt, Value: 3}, {Series: 2, Time: math.MaxInt, Value: 8}})
+	s.Lay(slices.Values([]api.Sample{{Series: 2, Time: 4, Value: 0}, {Series: 2, Time: math.MinInt, Value: 3}, {Series: 2, Time: math.MaxInt, Value: 8}}))
 	wantPoints(t, &s, 2, api.Point{Time: math.MinInt, Value: 3}, api.Point{Time: 4, Value: 0}, api.Point{Time: 5, Value: 6}, api.Point{Time: math.MaxInt, Value: 8})
 	wantPoints(t, &s, 3, api.Point{Time: 5, Value: 1})
 }
@@ -40,7 +56,7 @@ func TestLayOfManyAtOneTime(t *testing.T) {
 	for i := range 1000 {
 		list = append(list, api.Sample{Series: 1, Time: 3 - i%3, Value: uint64(i)})
 	}
-	s.Lay(list)
+	lay(&s, list...)
 	wantPoints(t, &s, 1, api.Point{Time: 1, Value: 998}, api.Point{Time: 2, Value: 997}, api.Point{Time: 3, Value: 999})
 }
 
@@ -48,7 +64,7 @@ func TestLayKeepsNothingOfTheList(t *testing.T) {
 	var s Set
 	list := []api.Sample{{Series: 1, Time: 2, Value: 3}, {Series: 1, Time: 1, Value: 3}}
 	before := slices.Clone(list)
-	s.Lay(list)
+	lay(&s, list...)
 	if !slices.Equal(list, before) {
 		t.Errorf("the list behind Lay: %v", list)
 	}
@@ -69,9 +85,9 @@ func TestFits(t *testing.T) {
 
 func TestPointsStopsWhenTold(t *testing.T) {
 	var s Set
-	s.Lay([]api.Sample{{Time: 1}, {Time: 2}, {Time: 3}})
+	s.Lay(slices.Values([]api.Sample{{Time: 1}, {Time: 2}, {Time: 3}}))
 	seen := 0
-	for range s.Points(0) {
+	for range s.Line(0).Points() {
 		seen++
 		break
 	}
