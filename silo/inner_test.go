@@ -1,6 +1,8 @@
 package silo
 
 import (
+	"slices"
+	"sync"
 	"testing"
 
 	"silo/api"
@@ -49,5 +51,34 @@ func TestNothingIsFrozenBehindTheThirdStep(t *testing.T) {
 		if frozen := !e.frozen.Empty(); frozen != (step < 3) {
 			t.Errorf("P6: step %d: frozen %t", step, frozen)
 		}
+	}
+}
+
+// TestPileTakesWhatManyLayAtOnce: without its lock some of it would be lost.
+func TestPileTakesWhatManyLayAtOnce(t *testing.T) {
+	const readers, each = 16, 2000
+	var found pile
+	var laying sync.WaitGroup
+	for reader := range readers {
+		laying.Go(func() {
+			for i := range each {
+				height := i*readers + reader
+				found.put(height, slices.Values([]api.Point{{Time: height}}))
+			}
+		})
+	}
+	laying.Wait()
+	next := 0
+	for point := range found.upward() {
+		if point.Time != next {
+			t.Fatalf("%v in the place of layer %d", point, next)
+		}
+		next++
+	}
+	if next != readers*each {
+		t.Errorf("%d layers, want %d", next, readers*each)
+	}
+	for range found.upward() {
+		break
 	}
 }
