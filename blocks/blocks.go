@@ -4,7 +4,7 @@ package blocks
 import (
 	"iter"
 	"math"
-	"strconv"
+	"slices"
 	"strings"
 
 	"silo/api"
@@ -21,21 +21,11 @@ const (
 // leastBytes is how many bytes a sample has at least: a time's, a value's.
 const leastBytes = 2
 
-// IsRange tells whether a block may have the range from lo to hi.
-func IsRange(lo int, hi int) bool {
-	return 0 <= lo && lo <= hi && hi <= api.MaxNumber
-}
-
-// Name is the name of the block with this range.
-func Name(lo int, hi int) string {
-	return "b" + strconv.Itoa(lo) + "." + strconv.Itoa(hi)
-}
-
 // Encode is the file of the block with this range and set.
-func Encode(lo int, hi int, set *sets.Set) string {
+func Encode(r Range, set *sets.Set) string {
 	file := []byte(mark)
-	file = codes.Append(file, uint64(lo))
-	file = codes.Append(file, uint64(hi))
+	file = codes.Append(file, uint64(r.Lo))
+	file = codes.Append(file, uint64(r.Hi))
 	for series := range api.MaxSeries {
 		if line := set.Line(series); line.Count() > 0 {
 			file = appendSeries(file, series, line)
@@ -66,36 +56,50 @@ func timeCode(time int, ahead int, first bool) uint64 {
 
 // Decode reads a file: its range and its samples, by rising series, then
 // times; false, unless the bytes are just the file of a block.
-func Decode(file string) (lo int, hi int, samples []api.Sample, ok bool) {
+func Decode(file string) (Range, []api.Sample, bool) {
 	data, sealed := codes.Unsealed(file)
 	body, marked := strings.CutPrefix(data, mark)
 	if !sealed || !marked {
-		return 0, 0, nil, false
+		return Range{}, nil, false
 	}
 	r := codes.NewReader(body)
-	lo = readNumber(r)
-	hi = readNumber(r)
-	if !IsRange(lo, hi) {
-		return 0, 0, nil, false
+	span := readRange(r)
+	if !span.Fits() {
+		return Range{}, nil, false
 	}
-	for sample := range readSamples(r) {
-		samples = append(samples, sample)
-	}
+	samples := slices.Collect(readSamples(r))
 	if !r.Done() {
-		return 0, 0, nil, false
+		return Range{}, nil, false
 	}
-	return lo, hi, samples, true
+	return span, samples, true
+}
+
+// IsFile tells whether the bytes are just the file of a block with this range.
+func IsFile(r Range, file string) bool {
+	span, _, ok := Decode(file)
+	return ok && span == r
+}
+
+// Samples goes through the samples, by rising series, then times, of what must
+// be the file of a block: it was looked at when it was written or opened, so
+// its hash is not asked again.
+func Samples(file string) iter.Seq[api.Sample] {
+	return func(yield func(api.Sample) bool) {
+		r := codes.NewReader(strings.TrimPrefix(file, mark))
+		readRange(r)
+		for sample := range readSamples(r) {
+			if !yield(sample) {
+				return
+			}
+		}
+	}
 }
 
 // Between goes through the points of a series from a time to a time, both
-// included, in what must be the file of a block: it was looked at when it was
-// written or opened, so its hash is not asked again.
+// included, of what must be the file of a block.
 func Between(file string, series int, from int, to int) iter.Seq[api.Point] {
 	return func(yield func(api.Point) bool) {
-		r := codes.NewReader(strings.TrimPrefix(file, mark))
-		readNumber(r)
-		readNumber(r)
-		for sample := range readSamples(r) {
+		for sample := range Samples(file) {
 			if sample.Series < series || sample.Series == series && sample.Time < from {
 				continue
 			}
@@ -107,6 +111,12 @@ func Between(file string, series int, from int, to int) iter.Seq[api.Point] {
 			}
 		}
 	}
+}
+
+func readRange(r *codes.Reader) Range {
+	lo := readNumber(r)
+	hi := readNumber(r)
+	return Range{Lo: lo, Hi: hi}
 }
 
 // readNumber fails above MaxNumber ahead of making an int of the code, which

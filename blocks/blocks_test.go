@@ -10,27 +10,13 @@ import (
 	"silo/sets"
 )
 
-func TestIsRange(t *testing.T) {
-	for _, c := range []struct {
-		lo, hi int
-		want   bool
-	}{
-		{0, 0, true}, {0, 999999, true}, {999999, 999999, true}, {3, 4, true},
-		{-1, 0, false}, {-2, -1, false}, {1, 0, false}, {0, 1000000, false}, {1000000, 1000000, false}, {math.MinInt, math.MaxInt, false}, {math.MaxInt, math.MinInt, false},
-	} {
-		if got := IsRange(c.lo, c.hi); got != c.want {
-			t.Errorf("IsRange(%d, %d) = %t", c.lo, c.hi, got)
-		}
-	}
-}
-
 func TestEncodeThenDecode(t *testing.T) {
 	list := []api.Sample{{Series: 0, Time: math.MinInt, Value: math.MaxUint64}, {Series: 0, Time: math.MaxInt, Value: 0}, {Series: 15, Time: 0, Value: 1}}
 	var set sets.Set
 	set.Lay(slices.Values(list))
-	lo, hi, got, ok := Decode(Encode(7, 8, &set))
-	if lo != 7 || hi != 8 || !slices.Equal(got, list) || !ok {
-		t.Errorf("Decode: %d, %d, %v, %t", lo, hi, got, ok)
+	r, got, ok := Decode(Encode(Range{7, 8}, &set))
+	if r != (Range{7, 8}) || !slices.Equal(got, list) || !ok {
+		t.Errorf("Decode: %v, %v, %t", r, got, ok)
 	}
 }
 
@@ -54,10 +40,32 @@ func TestReadSamplesStopsAtWhatIsWrong(t *testing.T) {
 	}
 }
 
-func TestName(t *testing.T) {
-	for want, c := range map[string][2]int{"b0.0": {0, 0}, "b3.10": {3, 10}, "b999999.999999": {999999, 999999}} {
-		if got := Name(c[0], c[1]); got != want {
-			t.Errorf("Name(%d, %d) = %q, want %q", c[0], c[1], got, want)
+func TestIsFile(t *testing.T) {
+	file := Encode(Range{3, 5}, &sets.Set{})
+	for _, r := range []Range{{3, 5}, {3, 4}, {2, 5}, {0, 0}, {5, 3}} {
+		if got := IsFile(r, file); got != (r == Range{3, 5}) {
+			t.Errorf("IsFile(%v) = %t", r, got)
+		}
+		if IsFile(r, file[1:]) || IsFile(r, "") || IsFile(r, file+"x") {
+			t.Errorf("%v: other bytes are a file", r)
+		}
+	}
+}
+
+func TestSamples(t *testing.T) {
+	list := []api.Sample{{Series: 0, Time: math.MinInt, Value: 1}, {Series: 0, Time: 2, Value: math.MaxUint64}, {Series: 7, Time: 2, Value: 0}, {Series: 15, Time: math.MaxInt, Value: 5}}
+	for most := range len(list) + 1 {
+		var set sets.Set
+		set.Lay(slices.Values(list[:most]))
+		file := Encode(Range{300, 999999}, &set)
+		if got := slices.Collect(Samples(file)); !slices.Equal(got, list[:most]) {
+			t.Errorf("%v, want %v", got, list[:most])
+		}
+		for sample := range Samples(file) {
+			if sample != list[0] {
+				t.Errorf("it goes on to %v", sample)
+			}
+			break
 		}
 	}
 }
@@ -66,7 +74,7 @@ func TestBetween(t *testing.T) {
 	list := []api.Sample{{Series: 1, Time: 9, Value: 1}, {Series: 2, Time: math.MinInt, Value: 2}, {Series: 2, Time: -1, Value: 3}, {Series: 2, Time: 4, Value: 4}, {Series: 2, Time: math.MaxInt, Value: 5}, {Series: 3, Time: 0, Value: 6}}
 	var set sets.Set
 	set.Lay(slices.Values(list))
-	for _, file := range []string{Encode(0, 0, &set), Encode(300, 999999, &set)} {
+	for _, file := range []string{Encode(Range{0, 0}, &set), Encode(Range{300, 999999}, &set)} {
 		for series := range api.MaxSeries {
 			for _, from := range []int{math.MinInt, math.MinInt + 1, -1, 0, 4, 5, math.MaxInt} {
 				for _, to := range []int{math.MinInt, -2, -1, 0, 4, 9, math.MaxInt - 1, math.MaxInt} {
@@ -88,7 +96,7 @@ func TestBetween(t *testing.T) {
 func TestBetweenStopsWhenTold(t *testing.T) {
 	var set sets.Set
 	set.Lay(slices.Values([]api.Sample{{Time: 1}, {Time: 2}, {Time: 3}}))
-	for point := range Between(Encode(0, 0, &set), 0, 2, 9) {
+	for point := range Between(Encode(Range{0, 0}, &set), 0, 2, 9) {
 		if point.Time != 2 {
 			t.Errorf("it goes on to %v", point)
 		}

@@ -134,3 +134,25 @@ func TestReaderStaysFailed(t *testing.T) {
 		t.Errorf("behind Fail: Code() = %d, %d left, failed %t, done %t", n, r.Left(), r.Failed(), r.Done())
 	}
 }
+
+func TestBytes(t *testing.T) {
+	r := NewReader("abc")
+	if got := r.Bytes(0); got != "" || r.Failed() || r.Left() != 3 {
+		t.Errorf("Bytes(0) = %q", got)
+	}
+	if got := r.Bytes(2); got != "ab" || r.Failed() || r.Left() != 1 {
+		t.Errorf("Bytes(2) = %q", got)
+	}
+	if got := r.Bytes(1); got != "c" || !r.Done() {
+		t.Errorf("Bytes(1) = %q", got)
+	}
+	if got := r.Bytes(0); got != "" || !r.Done() {
+		t.Errorf("Bytes(0) at the end = %q", got)
+	}
+	for _, n := range []uint64{4, 1 << 31, 1 << 63, math.MaxUint64} {
+		r := NewReader("abc")
+		if got := r.Bytes(n); got != "" || !r.Failed() || r.Left() != 0 {
+			t.Errorf("Bytes(%d) = %q, failed %t", n, got, r.Failed())
+		}
+	}
+}

@@ -40,6 +40,17 @@ func (r *Reader) Code() uint64 {
 	return 0
 }
 
+// Bytes reads n bytes. It is given a code, which may be far more than there is.
+func (r *Reader) Bytes(n uint64) string {
+	if n > uint64(len(r.rest)) {
+		r.Fail()
+		return ""
+	}
+	data := r.rest[:n]
+	r.rest = r.rest[n:]
+	return data
+}
+
 // Left is how many bytes are not yet read.
 func (r *Reader) Left() int { return len(r.rest) }
 

@@ -5,6 +5,7 @@ package disk
 import (
 	"maps"
 	"slices"
+	"strings"
 
 	"silo/api"
 )
@@ -50,7 +51,7 @@ func New(files []api.File, o api.Options) *Disk {
 	o.Keeps = slices.Clone(o.Keeps)
 	d := &Disk{names: make(directory), options: o}
 	for _, f := range files {
-		d.names[f.Name] = &file{data: []byte(f.Data), safe: len(f.Data)}
+		d.names[strings.Clone(f.Name)] = &file{data: []byte(f.Data), safe: len(f.Data)}
 	}
 	d.safe = maps.Clone(d.names)
 	return d
@@ -71,7 +72,7 @@ func (d *Disk) Read(name string) string {
 func (d *Disk) Files() []api.File {
 	var out []api.File
 	for _, name := range d.sorted() {
-		out = append(out, api.File{Name: name, Data: d.Read(name)})
+		out = append(out, api.File{Name: strings.Clone(name), Data: d.Read(name)})
 	}
 	return out
 }

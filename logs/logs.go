@@ -9,11 +9,14 @@ import (
 	"silo/sets"
 )
 
-// mark begins a frame.
-const mark = "F"
+// mark begins a frame, letter the name of a log.
+const (
+	mark   = "F"
+	letter = "w"
+)
 
 // Name is the name of the log of this number.
-func Name(number int) string { return "w" + strconv.Itoa(number) }
+func Name(number int) string { return letter + strconv.Itoa(number) }
 
 // Fits tells whether samples may be a batch.
 func Fits(batch []api.Sample) bool {

@@ -51,3 +51,16 @@ func (s *Set) Empty() bool {
 
 // Line is what the set has of a series.
 func (s *Set) Line(series int) *Line { return &s.lines[series] }
+
+// Samples goes through the samples, by rising series, then times.
+func (s *Set) Samples() iter.Seq[api.Sample] {
+	return func(yield func(api.Sample) bool) {
+		for series := range s.lines {
+			for point := range s.lines[series].Points() {
+				if !yield(api.Sample{Series: series, Time: point.Time, Value: point.Value}) {
+					return
+				}
+			}
+		}
+	}
+}

@@ -95,3 +95,40 @@ func TestPointsStopsWhenTold(t *testing.T) {
 		t.Errorf("%d points behind the stop", seen)
 	}
 }
+
+func TestSamples(t *testing.T) {
+	list := []api.Sample{{Series: 0, Time: math.MinInt, Value: 1}, {Series: 0, Time: 2, Value: 3}, {Series: 4, Time: -1, Value: 0}, {Series: 15, Time: 9, Value: math.MaxUint64}}
+	var s Set
+	if got := slices.Collect(s.Samples()); len(got) != 0 {
+		t.Errorf("the empty set has %v", got)
+	}
+	lay(&s, list[3], list[1], list[2], list[0])
+	if got := slices.Collect(s.Samples()); !slices.Equal(got, list) {
+		t.Errorf("%v, want %v", got, list)
+	}
+	for most := 1; most <= len(list); most++ {
+		var seen []api.Sample
+		for sample := range s.Samples() {
+			if seen = append(seen, sample); len(seen) == most {
+				break
+			}
+		}
+		if !slices.Equal(seen, list[:most]) {
+			t.Errorf("%d of Samples: %v", most, seen)
+		}
+	}
+}
+
+// TestSetsLaidOnOneAnother: the lower one stays as it is.
+func TestSetsLaidOnOneAnother(t *testing.T) {
+	var lower, upper, both Set
+	lay(&lower, api.Sample{Series: 1, Time: 1, Value: 1}, api.Sample{Series: 1, Time: 2, Value: 1})
+	lay(&upper, api.Sample{Series: 1, Time: 2, Value: 2}, api.Sample{Series: 2, Time: 0, Value: 2})
+	both.Lay(lower.Samples())
+	both.Lay(upper.Samples())
+	wantPoints(t, &both, 1, api.Point{Time: 1, Value: 1}, api.Point{Time: 2, Value: 2})
+	wantPoints(t, &both, 2, api.Point{Time: 0, Value: 2})
+	lay(&both, api.Sample{Series: 1, Time: 1, Value: 9})
+	wantPoints(t, &lower, 1, api.Point{Time: 1, Value: 1}, api.Point{Time: 2, Value: 1})
+	wantPoints(t, &upper, 1, api.Point{Time: 2, Value: 2})
+}

@@ -23,7 +23,7 @@ func (e *Engine) Append(batch []api.Sample) (int, api.Errno) {
 		return 0, api.ErrBatch
 	}
 	a := &appending{engine: e, batch: slices.Clone(batch)}
-	return e.begin(appends, a.write, a.sync), api.OK
+	return e.begin(appends, a.write, a.sync).number, api.OK
 }
 
 func (a *appending) write() bool {

@@ -18,6 +18,19 @@ type pair struct {
 	options api.Options
 }
 
+// openPair: both, of the same files.
+func openPair(t *testing.T, r *rand.Rand, given []api.File, o api.Options) *pair {
+	t.Helper()
+	p := &pair{t: t, r: r, model: openModel(given), options: o}
+	e, err := silo.Open(given, o)
+	if e == nil || err != p.told(p.model.fault) {
+		t.Fatalf("P4, P15: Open(%q, %v) = %v, %d, want %d", given, o, e, err, p.told(p.model.fault))
+	}
+	p.engine = e
+	p.checkFiles()
+	return p
+}
+
 // lost: power is lost ahead of an operation that the model has done.
 func (p *pair) lost() bool {
 	return p.options.Crash != api.Never && len(p.model.ops) > p.options.Crash
@@ -31,11 +44,15 @@ func (p *pair) told(err api.Errno) api.Errno {
 	return err
 }
 
-func (p *pair) files() []api.File {
+func (p *pair) checkFiles() {
+	p.t.Helper()
+	want := now(p.model.given, p.model.ops)
 	if p.lost() {
-		return left(p.model.ops[:p.options.Crash], p.options)
+		want = left(p.model.given, p.model.ops[:p.options.Crash], p.options)
 	}
-	return now(p.model.ops)
+	if got := p.engine.Files(); !slices.Equal(got, want) {
+		p.t.Fatalf("P14: Files = %q, want %q, behind %v", got, want, p.model.ops)
+	}
 }
 
 func (p *pair) check(why string, got, want any) {
@@ -56,6 +73,11 @@ type moved struct {
 	err    api.Errno
 }
 
+type told struct {
+	text string
+	err  api.Errno
+}
+
 func (p *pair) append() {
 	var batch []api.Sample
 	for range p.r.Intn(10) {
@@ -64,30 +86,50 @@ func (p *pair) append() {
 			batch[0].Series = p.r.Intn(2)*17 - 1
 		}
 	}
+	p.appendOf(batch)
+	clear(batch)
+}
+
+func (p *pair) appendOf(batch []api.Sample) {
+	p.t.Helper()
 	number, err := p.engine.Append(batch)
 	want := begun{0, p.told(api.OK)}
 	if !p.lost() {
 		want.number, want.err = p.model.append(batch)
 	}
 	p.check("P5: Append", begun{number, err}, want)
-	clear(batch)
 }
 
-func (p *pair) cut() {
-	number, err := p.engine.Cut()
+// begin: a machine of which there is one at a time.
+func (p *pair) begin() {
+	switch p.r.Intn(3) {
+	case 0:
+		p.begins(p.engine.Cut, p.model.cut)
+	case 1:
+		p.begins(p.engine.Compact, p.model.compact)
+	case 2:
+		p.begins(p.engine.Snapshot, p.model.snapshot)
+	}
+}
+
+func (p *pair) begins(real, modelled func() (int, api.Errno)) {
+	p.t.Helper()
+	number, err := real()
 	want := begun{0, p.told(api.OK)}
 	if !p.lost() {
-		want.number, want.err = p.model.cut()
+		want.number, want.err = modelled()
 	}
-	p.check("P6: Cut", begun{number, err}, want)
+	p.check("P6, P7, P8: Cut, Compact, Snapshot", begun{number, err}, want)
 }
 
-func (p *pair) move() {
-	machine := p.model.begun + 1 - p.r.Intn(8)
+func (p *pair) move() { p.moves(p.model.begun + 1 - p.r.Intn(8)) }
+
+func (p *pair) moves(machine int) {
+	p.t.Helper()
 	done, result, err := p.engine.Move(machine)
 	want := moved{err: p.told(api.OK)}
 	if !p.lost() {
-		want.done, want.err = p.model.move(machine)
+		want.done, want.result, want.err = p.model.move(machine)
 	}
 	if p.lost() {
 		want = moved{err: api.ErrLost}
@@ -95,8 +137,7 @@ func (p *pair) move() {
 	p.check("P9: Move", moved{done, result, err}, want)
 }
 
-func (p *pair) query() {
-	series, from, to := p.r.Intn(6)-1, anyTime(p.r), anyTime(p.r)
+func (p *pair) query(series, from, to int) {
 	got, err := p.engine.Query(series, from, to)
 	want, wantErr := p.model.query(series, from, to)
 	if p.lost() {
@@ -107,30 +148,87 @@ func (p *pair) query() {
 	}
 }
 
+// anySnapshot: one that is there, or any number.
+func (p *pair) anySnapshot() int {
+	if all := p.model.snapshots(); len(all) > 0 && p.r.Intn(5) > 0 {
+		return all[p.r.Intn(len(all))]
+	}
+	return p.r.Intn(p.model.next+3) - 1
+}
+
+func (p *pair) manifest() string {
+	snapshot := p.anySnapshot()
+	text, err := p.engine.Manifest(snapshot)
+	want := told{err: p.told(api.OK)}
+	if !p.lost() {
+		want.text, want.err = p.model.manifest(snapshot)
+	}
+	p.check("P11: Manifest", told{text, err}, want)
+	return text
+}
+
+func (p *pair) backup() {
+	snapshot := p.anySnapshot()
+	base := p.manifest()
+	if p.r.Intn(8) == 0 {
+		base = base[:p.r.Intn(len(base)+1)]
+	}
+	text, err := p.engine.Backup(snapshot, base)
+	want := told{err: p.told(api.OK)}
+	if !p.lost() {
+		want.text, want.err = p.model.backup(snapshot, base)
+	}
+	p.check("P12: Backup", told{text, err}, want)
+}
+
 func (p *pair) run(calls int) {
 	for range calls {
-		switch n := p.r.Intn(20); {
+		switch n := p.r.Intn(24); {
 		case n < 4:
 			p.append()
-		case n < 5:
-			p.cut()
-		case n < 17:
+		case n < 7:
+			p.begin()
+		case n < 20:
 			p.move()
+		case n < 22:
+			p.query(p.r.Intn(6)-1, anyTime(p.r), anyTime(p.r))
+		case n < 23:
+			p.manifest()
 		default:
-			p.query()
+			p.backup()
 		}
-		if got, want := p.engine.Files(), p.files(); !slices.Equal(got, want) {
-			p.t.Fatalf("P14: Files = %q, want %q", got, want)
-		}
+		p.checkFiles()
 	}
 }
 
 func TestCallsInAnyOrderAgainstTheModel(t *testing.T) {
 	for seed := range int64(300) {
-		p := &pair{t: t, r: rand.New(rand.NewSource(seed)), model: newModel(), options: quiet}
-		p.engine = open(t, quiet)
+		p := openPair(t, rand.New(rand.NewSource(seed)), nil, quiet)
 		p.run(200)
 	}
+}
+
+// TestOpenOfWhatAnEngineLeft: again and again, with machines that were amid
+// their work.
+func TestOpenOfWhatAnEngineLeft(t *testing.T) {
+	for seed := range int64(100) {
+		r := rand.New(rand.NewSource(seed))
+		var left []api.File
+		for range 6 {
+			p := openPair(t, r, left, quiet)
+			p.check("P4: the error", p.model.fault, api.OK)
+			p.run(60)
+			left = p.engine.Files()
+		}
+	}
+}
+
+func anyLoss(r *rand.Rand, most int) api.Options {
+	o := api.Options{Crash: r.Intn(most), Dirs: r.Intn(7)}
+	for range r.Intn(4) {
+		o.Keeps = append(o.Keeps, r.Intn(40))
+	}
+	return o
 }
 
 // TestPowerIsLostAnywhere: what Files tells then (P14), and that nothing else
@@ -138,17 +236,11 @@ func TestCallsInAnyOrderAgainstTheModel(t *testing.T) {
 func TestPowerIsLostAnywhere(t *testing.T) {
 	for seed := range int64(1500) {
 		r := rand.New(rand.NewSource(seed))
-		o := api.Options{Crash: r.Intn(50), Dirs: r.Intn(5)}
-		for range r.Intn(4) {
-			o.Keeps = append(o.Keeps, r.Intn(40))
-		}
-		p := &pair{t: t, r: r, model: newModel(), options: o}
-		e, err := silo.Open(nil, o)
-		if e == nil || err != p.told(api.OK) {
-			t.Fatalf("P4, P15: Open(%v) = %v, %d", o, e, err)
-		}
-		p.engine = e
-		p.run(120)
+		p := openPair(t, r, nil, anyLoss(r, 100))
+		p.run(150)
+		// An engine of what was left is as the document says, too.
+		again := openPair(t, r, p.engine.Files(), anyLoss(r, 40))
+		again.run(40)
 	}
 }
 

@@ -4,7 +4,6 @@ import (
 	"silo/api"
 	"silo/blocks"
 	"silo/disk"
-	"silo/logs"
 	"silo/sets"
 )
 
@@ -16,59 +15,48 @@ type Engine struct {
 	disk *disk.Disk
 	next int // the next number
 	// By rising lo.
-	blocks []block
+	blocks []blocks.Range
 	// The live logs, by rising numbers: the last one is written to.
 	live   []int
 	frozen sets.Set
 	head   sets.Set
+	// What the snapshot at work pins, by rising lo.
+	pins []pin
 
 	machines map[int]*machine // those at work
 	begun    int
 	working  [kinds]int
 }
 
-// block is one of the engine's blocks: its file lies on the disk.
-type block struct{ lo, hi int }
-
-func (b block) name() string { return blocks.Name(b.lo, b.hi) }
-
-// Open opens an engine (P4).
-func Open(files []api.File, o api.Options) (*Engine, api.Errno) {
-	if !disk.Fit(files) {
-		return nil, api.ErrDisk
-	}
-	if !optionsFit(o) {
-		return nil, api.ErrOption
-	}
-	e := &Engine{disk: disk.New(files, o), machines: make(map[int]*machine)}
-	if len(files) > 0 {
-		// What files say is not read as yet. To go on without would lose it.
-		e.fault = api.ErrCorrupt
-		return e, e.fault
-	}
-	e.live = []int{e.createLog()}
-	return e, e.checkPower()
-}
-
-func optionsFit(o api.Options) bool {
-	if o.Crash < api.Never || o.Dirs < 0 {
-		return false
-	}
-	for _, keep := range o.Keeps {
-		if keep < 0 {
-			return false
-		}
-	}
-	return true
-}
-
-// createLog makes a log of the next number safe in the directory.
-func (e *Engine) createLog() int {
-	number := e.next
+// takeNumber uses the next number up.
+func (e *Engine) takeNumber() int {
 	e.next++
-	e.disk.Create(logs.Name(number))
+	return e.next - 1
+}
+
+// writeFile makes a new file with these bytes, which are safe.
+func (e *Engine) writeFile(name string, data string) {
+	e.disk.Create(name)
+	e.disk.Append(name, data)
+	e.disk.Sync(name)
+}
+
+// showFile gives a file its name in the place of the one under which it was
+// written, and makes this safe.
+func (e *Engine) showFile(written string, name string) {
+	e.disk.Rename(written, name)
 	e.disk.SyncDir()
-	return number
+}
+
+// removeFiles takes names away, in their order, and makes this safe.
+func (e *Engine) removeFiles(names []string) {
+	if len(names) == 0 {
+		return
+	}
+	for _, name := range names {
+		e.disk.Remove(name)
+	}
+	e.disk.SyncDir()
 }
 
 // checkPower stands behind what has operations. Steps go on to their end when

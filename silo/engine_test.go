@@ -153,18 +153,6 @@ func TestOpenErrors(t *testing.T) {
 	}
 }
 
-// TestOpenOfFilesLosesNothing: as long as files are not read, they are refused,
-// and left as they are.
-func TestOpenOfFilesLosesNothing(t *testing.T) {
-	e, err := silo.Open(files("w0", modelFrame([]api.Sample{{Series: 1}}), "x", ""), quiet)
-	if e == nil || err != api.ErrCorrupt {
-		t.Fatalf("Open of files = %v, %d", e, err)
-	}
-	wantRefused(t, "P15", api.ErrCorrupt)(e.Append([]api.Sample{{}}))
-	wantRefused(t, "P15", api.ErrCorrupt)(e.Cut())
-	wantFiles(t, "refused", e, "w0", modelFrame([]api.Sample{{Series: 1}}), "x", "")
-}
-
 func TestOpenNeitherWritesNorKeeps(t *testing.T) {
 	o := api.Options{Crash: 3, Keeps: []int{1, 9}}
 	keeps := slices.Clone(o.Keeps)

@@ -8,37 +8,6 @@ import (
 	"silo/api"
 )
 
-// TestCutWhenNumbersRunOut looks inside, as a million cuts take too long.
-func TestCutWhenNumbersRunOut(t *testing.T) {
-	e, _ := Open(nil, api.Options{Crash: api.Never})
-	e.next = 999990
-	e.Append([]api.Sample{{}})
-	e.Move(1)
-	if n, err := e.Cut(); n != 2 || err != api.OK {
-		t.Fatalf("P6: Cut at 999990 = %d, %d", n, err)
-	}
-	e.Move(2)
-	if l := e.Files(); len(l) != 2 || l[1].Name != "w999990" || e.next != 999991 {
-		t.Errorf("P6: %q, next %d", l, e.next)
-	}
-	if n, err := e.Cut(); n != 0 || err != api.ErrBusy {
-		t.Errorf("P6, P1: Cut while one is at work, at 999991 = %d, %d", n, err)
-	}
-	for range 3 {
-		e.Move(2)
-	}
-	for _, next := range []int{999991, 999999, 1000000} {
-		e.next = next
-		before := e.Files()
-		if n, err := e.Cut(); n != 0 || err != api.ErrFull {
-			t.Errorf("P6: Cut at %d = %d, %d", next, n, err)
-		}
-		if _, _, err := e.Move(3); err != api.ErrMachine || len(e.Files()) != len(before) {
-			t.Errorf("P6, P1: what was refused began: %d, %q", err, e.Files())
-		}
-	}
-}
-
 // TestNothingIsFrozenBehindTheThirdStep: Query can't tell, as the block has the
 // same samples.
 func TestNothingIsFrozenBehindTheThirdStep(t *testing.T) {

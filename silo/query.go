@@ -37,7 +37,7 @@ func (e *Engine) readBlocks(found *pile, series int, from int, to int) {
 		readers.Add(1)
 		go func() {
 			defer readers.Done()
-			file := e.disk.Read(b.name())
+			file := e.disk.Read(b.Name())
 			found.put(height, blocks.Between(file, series, from, to))
 		}()
 	}
