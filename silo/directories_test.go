@@ -151,6 +151,7 @@ func anyDirectory(r *rand.Rand) []api.File {
 // TestOpenOfDrawnFiles: as the model, with power that is lost anywhere or not,
 // and calls behind it.
 func TestOpenOfDrawnFiles(t *testing.T) {
+	t.Parallel()
 	count := map[api.Errno]int{}
 	complete := 0
 	for seed := range int64(3000) {

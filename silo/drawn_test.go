@@ -202,6 +202,7 @@ func (p *pair) run(calls int) {
 }
 
 func TestCallsInAnyOrderAgainstTheModel(t *testing.T) {
+	t.Parallel()
 	for seed := range int64(300) {
 		p := openPair(t, rand.New(rand.NewSource(seed)), nil, quiet)
 		p.run(200)
@@ -211,6 +212,7 @@ func TestCallsInAnyOrderAgainstTheModel(t *testing.T) {
 // TestOpenOfWhatAnEngineLeft: again and again, with machines that were amid
 // their work.
 func TestOpenOfWhatAnEngineLeft(t *testing.T) {
+	t.Parallel()
 	for seed := range int64(100) {
 		r := rand.New(rand.NewSource(seed))
 		var left []api.File
@@ -220,66 +222,5 @@ func TestOpenOfWhatAnEngineLeft(t *testing.T) {
 			p.run(60)
 			left = p.engine.Files()
 		}
-	}
-}
-
-func anyLoss(r *rand.Rand, most int) api.Options {
-	o := api.Options{Crash: r.Intn(most), Dirs: r.Intn(7)}
-	for range r.Intn(4) {
-		o.Keeps = append(o.Keeps, r.Intn(40))
-	}
-	return o
-}
-
-// TestPowerIsLostAnywhere: what Files tells then (P14), and that nothing else
-// is told any more.
-func TestPowerIsLostAnywhere(t *testing.T) {
-	for seed := range int64(1500) {
-		r := rand.New(rand.NewSource(seed))
-		p := openPair(t, r, nil, anyLoss(r, 100))
-		p.run(150)
-		// An engine of what was left is as the document says, too.
-		again := openPair(t, r, p.engine.Files(), anyLoss(r, 40))
-		again.run(40)
-	}
-}
-
-func TestALostEngineAnswersNothing(t *testing.T) {
-	for crash, want := range [][]api.File{nil, files("w0", ""), files("w0", ""), files("w0", "F\x03")} {
-		e, err := silo.Open(nil, api.Options{Crash: crash, Dirs: 1, Keeps: []int{2}})
-		if e == nil || (err == api.ErrLost) != (crash < 2) {
-			t.Fatalf("P15: Open, crash %d = %v, %d", crash, e, err)
-		}
-		if crash >= 2 {
-			wantBegun(t, 1)(e.Append([]api.Sample{{}}))
-			if crash == 3 {
-				wantMove(t, e, 1, false)
-			}
-			if done, result, err := e.Move(1); done || result != 0 || err != api.ErrLost {
-				t.Errorf("P15: Move = %t, %d, %d", done, result, err)
-			}
-		}
-		wantRefused(t, "P15", api.ErrLost)(e.Append(nil))
-		wantRefused(t, "P15", api.ErrLost)(e.Append([]api.Sample{{}}))
-		wantRefused(t, "P15", api.ErrLost)(e.Cut())
-		wantRefused(t, "P15", api.ErrLost)(e.Compact())
-		wantRefused(t, "P15", api.ErrLost)(e.Snapshot())
-		for _, n := range []int{-1, 0, 1, 2} {
-			if done, result, err := e.Move(n); done || result != 0 || err != api.ErrLost {
-				t.Errorf("P15: Move(%d) = %t, %d, %d", n, done, result, err)
-			}
-		}
-		for _, series := range []int{-1, 0, 16} {
-			if l, err := e.Query(series, least, greatest); len(l) != 0 || err != api.ErrLost {
-				t.Errorf("P15: Query(%d) = %v, %d", series, l, err)
-			}
-		}
-		if s, err := e.Manifest(0); s != "" || err != api.ErrLost {
-			t.Errorf("P15: Manifest = %q, %d", s, err)
-		}
-		if s, err := e.Backup(0, "x"); s != "" || err != api.ErrLost {
-			t.Errorf("P15: Backup = %q, %d", s, err)
-		}
-		wantFiles(t, "lost", e, flat(want)...)
 	}
 }

@@ -60,11 +60,11 @@ func (e *Engine) removeFiles(names []string) {
 }
 
 // checkPower stands behind what has operations. Steps go on to their end when
-// power is lost amid them: the disk does nothing then, and nobody but Files
-// sees the engine any more.
+// power is lost amid them, as the disk does nothing then. Nobody but Files sees
+// the engine any more, so nothing else is kept.
 func (e *Engine) checkPower() api.Errno {
 	if e.disk.Lost() {
-		e.fault = api.ErrLost
+		*e = Engine{fault: api.ErrLost, disk: e.disk}
 	}
 	return e.fault
 }

@@ -23,6 +23,19 @@ func TestNothingIsFrozenBehindTheThirdStep(t *testing.T) {
 	}
 }
 
+// TestALostEngineKeepsItsDiskAlone: no call but Files sees more of it.
+func TestALostEngineKeepsItsDiskAlone(t *testing.T) {
+	e, _ := Open(nil, api.Options{Crash: 3})
+	e.Append([]api.Sample{{}})
+	e.Snapshot()
+	for range 2 {
+		e.Move(1)
+	}
+	if e.fault != api.ErrLost || e.machines != nil || e.live != nil || !e.head.Empty() || e.next != 0 {
+		t.Errorf("a lost engine keeps %+v", e)
+	}
+}
+
 // TestPileTakesWhatManyLayAtOnce: without its lock some of it would be lost.
 func TestPileTakesWhatManyLayAtOnce(t *testing.T) {
 	const readers, each = 16, 2000

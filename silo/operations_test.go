@@ -2,6 +2,7 @@ package silo_test
 
 import (
 	"math/rand"
+	"slices"
 	"testing"
 
 	"silo/api"
@@ -31,6 +32,8 @@ func (p *pair) play(calls string) {
 // TestOperationsInTheirOrder: with power lost ahead of each of them, and each
 // number of steps of the directory left, just these can be the operations.
 func TestOperationsInTheirOrder(t *testing.T) {
+	t.Parallel()
+	long := slices.Repeat([]int{0, 1, 2, 30, 5}, 9)
 	three := files("b0.0", one(0, 0, 0, 0), "b1.1", one(1, 1, 1, 1), "b2.2", one(2, 2, 2, 2))
 	for why, c := range map[string]struct {
 		given []api.File
@@ -56,14 +59,18 @@ func TestOperationsInTheirOrder(t *testing.T) {
 			r := rand.New(rand.NewSource(1))
 			whole := openPair(t, r, c.given, quiet)
 			whole.play(c.calls)
-			operations := len(whole.model.ops)
-			for crash := range operations + 1 {
-				for dirs := range 8 {
-					for _, keeps := range [][]int{nil, {1, 0}, {0, 9}} {
-						p := openPair(t, r, c.given, api.Options{Crash: crash, Dirs: dirs, Keeps: keeps})
-						p.play(c.calls)
-					}
+			keeps := [][]int{nil, {1, 0}, {0, 9, greatest}, long}
+			for crash := range whole.model.ops {
+				for _, o := range losses(whole, crash, keeps...) {
+					p := openPair(t, r, c.given, o)
+					p.play(c.calls)
+					p.wantSilence(why)
 				}
+			}
+			// Operations that are never come to.
+			for _, crash := range []int{len(whole.model.ops), greatest} {
+				p := openPair(t, r, c.given, api.Options{Crash: crash, Dirs: 1})
+				p.play(c.calls)
 			}
 		})
 	}
